@@ -83,7 +83,7 @@ func TestDet(t *testing.T) {
 
 // P1.2: against an expansion along the first row.
 func TestDetSlowly(t *testing.T) {
-	d := die(11)
+	d := rolled(11)
 	for side := range api.MaxSide + 1 {
 		for range 12 {
 			m := blank(side)
@@ -100,7 +100,7 @@ func TestDetSlowly(t *testing.T) {
 
 // P1.2: the determinant of a product of tables is the product of theirs.
 func TestDetOfProduct(t *testing.T) {
-	d := die(13)
+	d := rolled(13)
 	for range 40 {
 		a, b, both := blank(3), blank(3), blank(3)
 		for i := range a {
@@ -189,15 +189,15 @@ func TestDetRange(t *testing.T) {
 
 // P1.2: the greatest table there is: its terms are many, and it ends.
 func TestDetGreatest(t *testing.T) {
-	d := die(17)
+	d := rolled(17)
 	m := blank(api.MaxSide)
 	values := blank(api.MaxSide)
 	for i := range m {
 		for j := range m {
 			exp := -api.MaxExp
 			for range api.MaxTerms {
-				m[i][j] = append(m[i][j], api.Term{Exp: exp, Coef: 1 - 2*d.below(2)})
-				exp += 1 + d.below(30)
+				m[i][j] = append(m[i][j], api.Term{Exp: exp, Coef: 1 - 2*d.Below(2)})
+				exp += 1 + d.Below(30)
 			}
 			if n, _ := poly.At(m[i][j], -1); n != 0 {
 				values[i][j] = of(0, n)

@@ -6,6 +6,7 @@ import (
 	"testing"
 
 	"knotwork/api"
+	"knotwork/samples"
 )
 
 // of: a polynomial by its exponents and coefficients, in turn.
@@ -42,23 +43,21 @@ func refused(t *testing.T, what string, got []api.Term, e, want api.Errno) {
 	}
 }
 
-// die: numbers that look drawn, the same each time.
-type die uint64
+// die: drawn polynomials, the same each time.
+type die struct{ samples.Die }
 
-func (d *die) below(most int) int {
-	*d = *d*6364136223846793005 + 1442695040888963407
-	return int(uint64(*d>>33) % uint64(most))
-}
+// rolled: the die that begins at a number.
+func rolled(from int) die { return die{samples.Die(from)} }
 
 // poly: a polynomial of less than most terms.
 func (d *die) poly(most int) []api.Term {
 	var a []api.Term
-	exp := d.below(9) - 6
-	for range d.below(most) {
-		if coef := d.below(9) - 4; coef != 0 {
+	exp := d.Below(9) - 6
+	for range d.Below(most) {
+		if coef := d.Below(9) - 4; coef != 0 {
 			a = append(a, api.Term{Exp: exp, Coef: coef})
 		}
-		exp += 1 + d.below(3)
+		exp += 1 + d.Below(3)
 	}
 	return a
 }

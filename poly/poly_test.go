@@ -168,7 +168,7 @@ func TestGreatForms(t *testing.T) {
 
 // P1.1: sums and products may be put together as one likes; Flip and At go along with them.
 func TestLaws(t *testing.T) {
-	d := die(7)
+	d := rolled(7)
 	must := func(a []api.Term, e api.Errno) []api.Term {
 		t.Helper()
 		if e != api.OK {

@@ -69,7 +69,7 @@ func TestRead(t *testing.T) {
 // P1.4: what Text tells Read reads, up to the limits.
 func TestReadOfText(t *testing.T) {
 	all := greatOnes()
-	d := die(19)
+	d := rolled(19)
 	for range 300 {
 		all = append(all, named{"drawn", d.poly(9)})
 	}
@@ -127,13 +127,13 @@ func TestReadTerms(t *testing.T) {
 
 // P1.4: texts with a byte changed, lost or doubled: what is read is told as the same text.
 func TestReadSpoilt(t *testing.T) {
-	d := die(23)
+	d := rolled(23)
 	bytes := []byte("0129t^*+- x")
 	for range 4000 {
 		whole, _ := poly.Text(d.poly(6))
-		at, by := d.below(len(whole)), bytes[d.below(len(bytes))]
+		at, by := d.Below(len(whole)), bytes[d.Below(len(bytes))]
 		s := []byte(whole)
-		switch d.below(3) {
+		switch d.Below(3) {
 		case 0:
 			s[at] = by
 		case 1:
