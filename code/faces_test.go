@@ -69,7 +69,7 @@ func order(a, b api.Dart) int {
 
 // P2.2: of drawn ones: each dart lies in just one face, behind the one behind which it comes; each face begins with its least dart, and they are in the order of these.
 func TestFacesOfDrawnOnes(t *testing.T) {
-	for _, d := range drawnOnes() {
+	for _, d := range samples.DrawnOnes() {
 		next := map[api.Dart]api.Dart{}
 		for _, c := range d.Crosses {
 			for _, x := range corners(c) {
@@ -107,8 +107,8 @@ func TestPlanar(t *testing.T) {
 		d    api.Diagram
 		want bool
 	}{
-		{"one loop", of(1), true},
-		{"loops alone", of(api.MaxLoops), true},
+		{"one loop", samples.With(1), true},
+		{"loops alone", samples.With(api.MaxLoops), true},
 		{"the trefoil", samples.Trefoil(), true},
 		{"a curl", read(t, "X+[1,1,2,2]"), true},
 		{"the other curl", read(t, "X-[1,2,2,1]"), true},
@@ -158,7 +158,7 @@ func share(a, b api.Cross) bool {
 // P2.3: of drawn ones: each piece is counted by itself.
 func TestPlanarOfDrawnOnes(t *testing.T) {
 	count := map[bool]int{}
-	for _, d := range drawnOnes() {
+	for _, d := range samples.DrawnOnes() {
 		faces, _ := code.Faces(d)
 		want := true
 		for _, p := range pieces(d) {
@@ -194,15 +194,15 @@ func TestPlanarOfBraids(t *testing.T) {
 
 // P2.2, P2.3, P2.4: what may not be is refused, and nothing else is told.
 func TestRefused(t *testing.T) {
-	for _, x := range wrongOnes() {
-		if f, e := code.Faces(x.d); e != api.ErrState || len(f) != 0 {
-			t.Error("Faces:", x.what, f, e)
+	for _, x := range samples.WrongOnes() {
+		if f, e := code.Faces(x.Diagram); e != api.ErrState || len(f) != 0 {
+			t.Error("Faces:", x.What, f, e)
 		}
-		if p, e := code.Planar(x.d); e != api.ErrState || p {
-			t.Error("Planar:", x.what, p, e)
+		if p, e := code.Planar(x.Diagram); e != api.ErrState || p {
+			t.Error("Planar:", x.What, p, e)
 		}
-		if s, e := code.Show(x.d); e != api.ErrState || s != "" {
-			t.Error("Show:", x.what, s, e)
+		if s, e := code.Show(x.Diagram); e != api.ErrState || s != "" {
+			t.Error("Show:", x.What, s, e)
 		}
 	}
 }

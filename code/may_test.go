@@ -11,14 +11,14 @@ import (
 
 // P2.1: what may be, its edges, and what may not be.
 func TestMay(t *testing.T) {
-	for _, x := range rightOnes() {
-		if !code.May(x.d) {
-			t.Error(x.what, "may be:", x.d)
+	for _, x := range samples.RightOnes() {
+		if !code.May(x.Diagram) {
+			t.Error(x.What, "may be:", x.Diagram)
 		}
 	}
-	for _, x := range wrongOnes() {
-		if code.May(x.d) {
-			t.Error(x.what, "may not be:", x.d)
+	for _, x := range samples.WrongOnes() {
+		if code.May(x.Diagram) {
+			t.Error(x.What, "may not be:", x.Diagram)
 		}
 	}
 }
@@ -68,7 +68,7 @@ func TestMayOfOneCrossing(t *testing.T) {
 	for i := range 2 * 4 * 4 * 4 * 4 {
 		c := api.Cross{A: i / 2 % 4, B: i / 8 % 4, C: i / 32 % 4, D: i / 128, Plus: i%2 == 1}
 		want := byWords([]api.Cross{c})
-		if code.May(of(0, c)) != want {
+		if code.May(samples.With(0, c)) != want {
 			t.Error(c, "wanted:", want)
 		}
 		if want {
@@ -83,7 +83,7 @@ func TestMayOfOneCrossing(t *testing.T) {
 // P2.1: drawn ones may be; with a number, or a sign, changed they may as the words say.
 func TestMayOfDrawnOnes(t *testing.T) {
 	die := samples.Die(3)
-	for _, d := range drawnOnes() {
+	for _, d := range samples.DrawnOnes() {
 		if !code.May(d) {
 			t.Fatal(d, "may be")
 		}
@@ -100,7 +100,7 @@ func TestMayOfDrawnOnes(t *testing.T) {
 			case 2:
 				c.Plus = !c.Plus
 			}
-			if want := byWords(l); code.May(of(0, l...)) != want {
+			if want := byWords(l); code.May(samples.With(0, l...)) != want {
 				t.Fatal(l, "wanted:", want)
 			}
 		}

@@ -17,12 +17,12 @@ func TestShow(t *testing.T) {
 		want string
 	}{
 		{samples.Trefoil(), "X-[1,4,2,5] X-[3,6,4,1] X-[5,2,6,3]"},
-		{of(1), "O"},
-		{of(3), "O O O"},
-		{of(0, api.Cross{A: 1, B: 1, C: 2, D: 2, Plus: true}), "X+[1,1,2,2]"},
-		{of(2, api.Cross{A: 1, B: 2, C: 2, D: 1}), "X-[1,2,2,1] O O"},
+		{samples.With(1), "O"},
+		{samples.With(3), "O O O"},
+		{samples.With(0, api.Cross{A: 1, B: 1, C: 2, D: 2, Plus: true}), "X+[1,1,2,2]"},
+		{samples.With(2, api.Cross{A: 1, B: 2, C: 2, D: 1}), "X-[1,2,2,1] O O"},
 		{samples.Weave(3, []int{1, -2}), "X+[3,2,1,1] X-[2,4,4,3]"},
-		{of(api.MaxLoops), strings.TrimSuffix(strings.Repeat("O ", api.MaxLoops), " ")},
+		{samples.With(api.MaxLoops), strings.TrimSuffix(strings.Repeat("O ", api.MaxLoops), " ")},
 	} {
 		if s, e := code.Show(x.d); e != api.OK || s != x.want {
 			t.Errorf("%v: %q, %v; wanted: %q", x.d, s, e, x.want)
@@ -36,14 +36,14 @@ func TestShow(t *testing.T) {
 
 // P2.4: what is shown is read again.
 func TestShownIsRead(t *testing.T) {
-	l := drawnOnes()
-	for _, x := range rightOnes() {
-		l = append(l, x.d)
+	l := samples.DrawnOnes()
+	for _, x := range samples.RightOnes() {
+		l = append(l, x.Diagram)
 	}
 	for _, d := range l {
 		s, e := code.Show(d)
 		got, f := code.Read(s)
-		if e != api.OK || f != api.OK || !same(got, d) {
+		if e != api.OK || f != api.OK || !samples.Same(got, d) {
 			t.Fatal(d, s, e, got, f)
 		}
 	}
@@ -51,7 +51,7 @@ func TestShownIsRead(t *testing.T) {
 
 // curls: two crossings of one piece each, and two loops.
 func curls() api.Diagram {
-	return of(2, api.Cross{A: 1, B: 1, C: 2, D: 2, Plus: true}, api.Cross{A: 3, B: 4, C: 4, D: 3})
+	return samples.With(2, api.Cross{A: 1, B: 1, C: 2, D: 2, Plus: true}, api.Cross{A: 3, B: 4, C: 4, D: 3})
 }
 
 // P2.4: parts in any order, parted by any of the bytes, one or several; numbers of one digit to three.
@@ -68,7 +68,7 @@ func TestRead(t *testing.T) {
 		"X+[01,1,02,2] X-[003,04,004,3] O O",
 		"X+[001,001,002,002] X-[003,004,004,003] O O",
 	} {
-		if got := read(t, s); !same(got, curls()) {
+		if got := read(t, s); !samples.Same(got, curls()) {
 			t.Errorf("%q: %v", s, got)
 		}
 	}
@@ -84,14 +84,14 @@ func TestReadOfMuch(t *testing.T) {
 		if d := read(t, s); len(s) != api.MaxText || d.Loops != 1 || len(d.Crosses) != 1 {
 			t.Error(len(s), d)
 		}
-		if d, e := code.Read(s + "O"); e != api.ErrSize || !same(d, api.Diagram{}) {
+		if d, e := code.Read(s + "O"); e != api.ErrSize || !samples.Same(d, api.Diagram{}) {
 			t.Error("one byte more:", d, e)
 		}
 	}
 	most := samples.Chain(api.MaxCross, true)
 	most.Loops = api.MaxLoops
 	s, _ := code.Show(most)
-	if d := read(t, s+strings.Repeat("\n", api.MaxText-len(s))); !same(d, most) {
+	if d := read(t, s+strings.Repeat("\n", api.MaxText-len(s))); !samples.Same(d, most) {
 		t.Error(d)
 	}
 }
@@ -123,7 +123,7 @@ func TestReadForm(t *testing.T) {
 		l = append(l, s)
 	}
 	for _, s := range l {
-		if d, e := code.Read(s); e != api.ErrForm || !same(d, api.Diagram{}) {
+		if d, e := code.Read(s); e != api.ErrForm || !samples.Same(d, api.Diagram{}) {
 			t.Errorf("%q: %v, %v", s, d, e)
 		}
 	}
@@ -139,7 +139,7 @@ func TestReadState(t *testing.T) {
 		strings.Repeat("O ", api.MaxLoops+1), strings.Repeat("O ", api.MaxText/2),
 		strings.Repeat("X+[1,1,2,2] ", 2*api.MaxCross), many + " X+[33,33,34,34]",
 	} {
-		if d, e := code.Read(s); e != api.ErrState || !same(d, api.Diagram{}) {
+		if d, e := code.Read(s); e != api.ErrState || !samples.Same(d, api.Diagram{}) {
 			t.Errorf("%q: %v, %v", s, d, e)
 		}
 	}
@@ -161,7 +161,7 @@ func TestReadErrors(t *testing.T) {
 		{"not so at the beginning, and it may not be", "P X+[9,9,9,9]", api.ErrForm},
 		{"a number too long, and it may not be", "X+[9,9,9,9] X+[1,1,2,0002]", api.ErrForm},
 	} {
-		if d, e := code.Read(x.s); e != x.want || !same(d, api.Diagram{}) {
+		if d, e := code.Read(x.s); e != x.want || !samples.Same(d, api.Diagram{}) {
 			t.Error(x.what, d, e, "wanted:", x.want)
 		}
 	}
@@ -180,7 +180,7 @@ func TestReadOfAnyByte(t *testing.T) {
 			known := s == plain || slices.Contains([]string{"\t", "\n", "\r", " "}, s[i:i+1])
 			shown, f := code.Show(d)
 			again, g := code.Read(shown)
-			if !known || f != api.OK || g != api.OK || !same(again, d) {
+			if !known || f != api.OK || g != api.OK || !samples.Same(again, d) {
 				t.Errorf("%q: %v", s, d)
 			}
 		}

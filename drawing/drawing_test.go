@@ -1,6 +1,7 @@
 package drawing_test
 
 import (
+	"slices"
 	"testing"
 
 	"knotwork/api"
@@ -43,5 +44,22 @@ func TestPieces(t *testing.T) {
 	}
 	if count != 2 || len(piece) != 5 {
 		t.Error(piece, count)
+	}
+}
+
+// A strand goes on across each crossing, and arcs tell whether it goes above at the next one.
+func TestWalks(t *testing.T) {
+	w, _ := drawing.Of(samples.Chain(2, true)) // X+[4,2,1,3] X+[2,4,3,1]
+	for arc, want := range []struct {
+		ahead int
+		above bool
+	}{1: {4, true}, 2: {3, false}, 3: {2, true}, 4: {1, false}} {
+		if arc > 0 && (w.Ahead(arc) != want.ahead || w.Above(arc) != want.above) {
+			t.Error("arc", arc, w.Ahead(arc), w.Above(arc), "wanted:", want)
+		}
+	}
+	walks := w.Walks()
+	if len(walks) != 2 || !slices.Equal(walks[0], []int{1, 4}) || !slices.Equal(walks[1], []int{2, 3}) {
+		t.Error(walks)
 	}
 }
