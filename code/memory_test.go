@@ -37,7 +37,7 @@ func TestMemoryOfRead(t *testing.T) {
 	s := "X-[1,4,2,5] X-[3,6,4,1] X-[5,2,6,3]"
 	first := read(t, s)
 	clear(first.Crosses[:cap(first.Crosses)])
-	if second := read(t, s); !samples.Same(second, samples.Trefoil()) {
+	if second := read(t, s); !samples.Alike(second, samples.Trefoil()) {
 		t.Error(second)
 	}
 }

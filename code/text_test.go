@@ -43,7 +43,7 @@ func TestShownIsRead(t *testing.T) {
 	for _, d := range l {
 		s, e := code.Show(d)
 		got, f := code.Read(s)
-		if e != api.OK || f != api.OK || !samples.Same(got, d) {
+		if e != api.OK || f != api.OK || !samples.Alike(got, d) {
 			t.Fatal(d, s, e, got, f)
 		}
 	}
@@ -68,7 +68,7 @@ func TestRead(t *testing.T) {
 		"X+[01,1,02,2] X-[003,04,004,3] O O",
 		"X+[001,001,002,002] X-[003,004,004,003] O O",
 	} {
-		if got := read(t, s); !samples.Same(got, curls()) {
+		if got := read(t, s); !samples.Alike(got, curls()) {
 			t.Errorf("%q: %v", s, got)
 		}
 	}
@@ -84,14 +84,14 @@ func TestReadOfMuch(t *testing.T) {
 		if d := read(t, s); len(s) != api.MaxText || d.Loops != 1 || len(d.Crosses) != 1 {
 			t.Error(len(s), d)
 		}
-		if d, e := code.Read(s + "O"); e != api.ErrSize || !samples.Same(d, api.Diagram{}) {
+		if d, e := code.Read(s + "O"); e != api.ErrSize || !samples.Alike(d, api.Diagram{}) {
 			t.Error("one byte more:", d, e)
 		}
 	}
 	most := samples.Chain(api.MaxCross, true)
 	most.Loops = api.MaxLoops
 	s, _ := code.Show(most)
-	if d := read(t, s+strings.Repeat("\n", api.MaxText-len(s))); !samples.Same(d, most) {
+	if d := read(t, s+strings.Repeat("\n", api.MaxText-len(s))); !samples.Alike(d, most) {
 		t.Error(d)
 	}
 }
@@ -123,7 +123,7 @@ func TestReadForm(t *testing.T) {
 		l = append(l, s)
 	}
 	for _, s := range l {
-		if d, e := code.Read(s); e != api.ErrForm || !samples.Same(d, api.Diagram{}) {
+		if d, e := code.Read(s); e != api.ErrForm || !samples.Alike(d, api.Diagram{}) {
 			t.Errorf("%q: %v, %v", s, d, e)
 		}
 	}
@@ -139,7 +139,7 @@ func TestReadState(t *testing.T) {
 		strings.Repeat("O ", api.MaxLoops+1), strings.Repeat("O ", api.MaxText/2),
 		strings.Repeat("X+[1,1,2,2] ", 2*api.MaxCross), many + " X+[33,33,34,34]",
 	} {
-		if d, e := code.Read(s); e != api.ErrState || !samples.Same(d, api.Diagram{}) {
+		if d, e := code.Read(s); e != api.ErrState || !samples.Alike(d, api.Diagram{}) {
 			t.Errorf("%q: %v, %v", s, d, e)
 		}
 	}
@@ -161,7 +161,7 @@ func TestReadErrors(t *testing.T) {
 		{"not so at the beginning, and it may not be", "P X+[9,9,9,9]", api.ErrForm},
 		{"a number too long, and it may not be", "X+[9,9,9,9] X+[1,1,2,0002]", api.ErrForm},
 	} {
-		if d, e := code.Read(x.s); e != x.want || !samples.Same(d, api.Diagram{}) {
+		if d, e := code.Read(x.s); e != x.want || !samples.Alike(d, api.Diagram{}) {
 			t.Error(x.what, d, e, "wanted:", x.want)
 		}
 	}
@@ -180,7 +180,7 @@ func TestReadOfAnyByte(t *testing.T) {
 			known := s == plain || slices.Contains([]string{"\t", "\n", "\r", " "}, s[i:i+1])
 			shown, f := code.Show(d)
 			again, g := code.Read(shown)
-			if !known || f != api.OK || g != api.OK || !samples.Same(again, d) {
+			if !known || f != api.OK || g != api.OK || !samples.Alike(again, d) {
 				t.Errorf("%q: %v", s, d)
 			}
 		}

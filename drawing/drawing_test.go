@@ -63,3 +63,44 @@ func TestWalks(t *testing.T) {
 		t.Error(walks)
 	}
 }
+
+// Turned from each of its sides on, a crossing has the same arcs around it; from A on it is what it was.
+func TestTurned(t *testing.T) {
+	c := api.Cross{A: 7, B: 5, C: 8, D: 6, Plus: true}
+	for first, want := range []api.Cross{
+		drawing.SideA: c,
+		drawing.SideB: {A: 5, B: 8, C: 6, D: 7, Plus: true},
+		drawing.SideC: {A: 8, B: 6, C: 7, D: 5, Plus: true},
+		drawing.SideD: {A: 6, B: 7, C: 5, D: 8, Plus: true},
+	} {
+		if got := drawing.Turned(c, first); got != want {
+			t.Error("from side", first, got, "wanted:", want)
+		}
+	}
+}
+
+// Numbers are asked for from A to D, each with its side.
+func TestRenumbered(t *testing.T) {
+	var asked [][2]int
+	got := drawing.Renumbered(api.Cross{A: 7, B: 5, C: 7, D: 6}, func(side, arc int) int {
+		asked = append(asked, [2]int{side, arc})
+		return 10*len(asked) + arc
+	})
+	if want := (api.Cross{A: 17, B: 25, C: 37, D: 46}); got != want {
+		t.Error(got, "wanted:", want)
+	}
+	if !slices.Equal(asked, [][2]int{{drawing.SideA, 7}, {drawing.SideB, 5}, {drawing.SideC, 7}, {drawing.SideD, 6}}) {
+		t.Error("asked:", asked)
+	}
+}
+
+// Arcs are numbered from 1 on; loops have none.
+func TestHas(t *testing.T) {
+	trefoil, _ := drawing.Of(samples.Trefoil())
+	loops, _ := drawing.Of(samples.With(3))
+	for arc := -3; arc < 10; arc++ {
+		if trefoil.Has(arc) != (arc >= 1 && arc <= 6) || loops.Has(arc) {
+			t.Error("arc", arc, trefoil.Has(arc), loops.Has(arc))
+		}
+	}
+}

@@ -1,5 +1,8 @@
 package drawing
 
+// Has: is there such an arc?
+func (w Drawing) Has(arc int) bool { return arc >= 1 && arc < len(w.To) }
+
 // Ahead: the arc on which a strand goes on behind the crossing to which an arc leads.
 func (w Drawing) Ahead(arc int) int {
 	s := w.To[arc]

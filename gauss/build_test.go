@@ -51,11 +51,11 @@ func renumbered(d api.Diagram, strands [][]int) api.Diagram {
 
 // P3.3: what Build makes of what Gauss tells is the same diagram, but for the numbers of its arcs.
 func TestBuildOfGauss(t *testing.T) {
-	for _, d := range everyOne() {
+	for _, d := range samples.EveryOne() {
 		strands, _ := gauss.Strands(d)
 		l, plus, _ := gauss.Gauss(d)
 		got, e := gauss.Build(l, plus, d.Loops)
-		if want := renumbered(d, strands); e != api.OK || !samples.Same(got, want) {
+		if want := renumbered(d, strands); e != api.OK || !samples.Alike(got, want) {
 			t.Fatal(d, got, e, "wanted:", want)
 		}
 	}
@@ -93,7 +93,7 @@ type wrongWalks struct {
 func check(t *testing.T, want api.Errno, list []wrongWalks) {
 	t.Helper()
 	for _, x := range list {
-		if d, e := gauss.Build(x.l, x.plus, x.loops); e != want || !samples.Same(d, api.Diagram{}) {
+		if d, e := gauss.Build(x.l, x.plus, x.loops); e != want || !samples.Alike(d, api.Diagram{}) {
 			t.Error(x.what, d, e, "wanted:", want)
 		}
 	}

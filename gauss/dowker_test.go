@@ -94,7 +94,7 @@ func numbered(d api.Diagram) ([]int, api.Errno) {
 
 // drawnKnots: diagrams among which are many of one part.
 func drawnKnots() []api.Diagram {
-	l := everyOne()
+	l := samples.EveryOne()
 	die := samples.Die(7)
 	for i := range 500 {
 		visits, plus := drawnWalks(&die, 1+i%api.MaxCross, 1)

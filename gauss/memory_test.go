@@ -84,12 +84,12 @@ func TestMemoryOfBuild(t *testing.T) {
 	first, _ := gauss.Build(l, plus, 0)
 	clear(l[0])
 	clear(plus)
-	if !samples.Same(first, samples.Trefoil()) {
+	if !samples.Alike(first, samples.Trefoil()) {
 		t.Error(first)
 	}
 	l, plus, _ = gauss.Gauss(samples.Trefoil())
 	clear(first.Crosses[:cap(first.Crosses)])
-	if second, _ := gauss.Build(l, plus, 0); !samples.Same(second, samples.Trefoil()) {
+	if second, _ := gauss.Build(l, plus, 0); !samples.Alike(second, samples.Trefoil()) {
 		t.Error(second)
 	}
 }

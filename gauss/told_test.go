@@ -40,25 +40,10 @@ func TestWalksByHand(t *testing.T) {
 	}
 }
 
-// everyOne: all diagrams that the tests know and that may be.
-func everyOne() []api.Diagram {
-	l := samples.DrawnOnes()
-	for _, x := range samples.RightOnes() {
-		l = append(l, x.Diagram)
-	}
-	die := samples.Die(5)
-	for range 20 {
-		d := samples.Knotted(&die, api.MaxCross)
-		d.Loops = die.Below(api.MaxLoops + 1)
-		l = append(l, d)
-	}
-	return l
-}
-
 // P3.1: each arc stands once, behind the one that leads to it; each part begins with its lowest arc, and they are in the order of these.
 func TestStrands(t *testing.T) {
 	count := map[int]int{}
-	for _, d := range everyOne() {
+	for _, d := range samples.EveryOne() {
 		next, _ := passes(d)
 		got, e := gauss.Strands(d)
 		if e != api.OK {
@@ -90,7 +75,7 @@ func TestStrands(t *testing.T) {
 
 // P3.2: of each arc that Strands tells, Gauss tells the visit; and of each crossing its sign.
 func TestGauss(t *testing.T) {
-	for _, d := range everyOne() {
+	for _, d := range samples.EveryOne() {
 		_, visit := passes(d)
 		strands, _ := gauss.Strands(d)
 		got, plus, e := gauss.Gauss(d)

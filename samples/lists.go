@@ -22,8 +22,8 @@ func With(loops int, crosses ...api.Cross) api.Diagram {
 	return api.Diagram{Crosses: crosses, Loops: loops}
 }
 
-// Same: are they the same, number by number?
-func Same(a, b api.Diagram) bool {
+// Alike: are they the same, number by number?
+func Alike(a, b api.Diagram) bool {
 	return a.Loops == b.Loops && slices.Equal(a.Crosses, b.Crosses)
 }
 
@@ -85,6 +85,21 @@ func RightOnes() []Named {
 		{"as many crossings and loops as may be", api.Diagram{Crosses: Chain(api.MaxCross, false).Crosses, Loops: api.MaxLoops}},
 		{"several pieces", Beside(Trefoil(), Chain(2, true))},
 	}
+}
+
+// EveryOne: all diagrams here that may be, and some drawn ones of as many crossings as may be.
+func EveryOne() []api.Diagram {
+	l := DrawnOnes()
+	for _, x := range RightOnes() {
+		l = append(l, x.Diagram)
+	}
+	die := Die(5)
+	for range 20 {
+		d := Knotted(&die, api.MaxCross)
+		d.Loops = die.Below(api.MaxLoops + 1)
+		l = append(l, d)
+	}
+	return l
 }
 
 // DrawnOnes: many diagrams that may be: planar and not, of one piece and of several, with loops and without.

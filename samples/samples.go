@@ -112,3 +112,14 @@ func Beside(a, b api.Diagram) api.Diagram {
 	}
 	return d
 }
+
+// Renamed: the same diagram, its crossings in another order and its arcs with other numbers.
+func Renamed(die *Die, d api.Diagram) api.Diagram {
+	n := len(d.Crosses)
+	place, number := shuffled(die, n), append([]int{0}, shuffled(die, 2*n)...)
+	l := make([]api.Cross, n)
+	for k, c := range d.Crosses {
+		l[place[k]-1] = api.Cross{A: number[c.A], B: number[c.B], C: number[c.C], D: number[c.D], Plus: c.Plus}
+	}
+	return api.Diagram{Crosses: l, Loops: d.Loops}
+}
