@@ -19,6 +19,12 @@ const (
 // Spot: a side of a crossing.
 type Spot struct{ Cross, Side int }
 
+// Across: the spot on the other side of the crossing, to which the strand goes on.
+func (s Spot) Across() Spot { return Spot{s.Cross, (s.Side + sides/2) % sides} }
+
+// Above: is it the strand above that has an end there?
+func (s Spot) Above() bool { return s.Side == SideB || s.Side == SideD }
+
 // Drawing: a diagram that may be, and where each of its arcs begins and ends. Arcs are found by their numbers, so what stands first in both lists tells of none.
 type Drawing struct {
 	api.Diagram

@@ -104,3 +104,19 @@ func TestHas(t *testing.T) {
 		}
 	}
 }
+
+// A strand goes on across a crossing: from A to C, from B to D, and back; the one above has its ends at B and D.
+func TestSpots(t *testing.T) {
+	for side, want := range []struct {
+		across int
+		above  bool
+	}{
+		drawing.SideA: {drawing.SideC, false}, drawing.SideB: {drawing.SideD, true},
+		drawing.SideC: {drawing.SideA, false}, drawing.SideD: {drawing.SideB, true},
+	} {
+		s := drawing.Spot{Cross: 7, Side: side}
+		if s.Across() != (drawing.Spot{Cross: 7, Side: want.across}) || s.Above() != want.above {
+			t.Error(s, s.Across(), s.Above(), "wanted:", want)
+		}
+	}
+}

@@ -4,14 +4,10 @@ package drawing
 func (w Drawing) Has(arc int) bool { return arc >= 1 && arc < len(w.To) }
 
 // Ahead: the arc on which a strand goes on behind the crossing to which an arc leads.
-func (w Drawing) Ahead(arc int) int {
-	s := w.To[arc]
-	s.Side = (s.Side + sides/2) % sides
-	return w.Leaving(s).Arc
-}
+func (w Drawing) Ahead(arc int) int { return w.Leaving(w.To[arc].Across()).Arc }
 
 // Above: does an arc's strand go above at the crossing to which it leads?
-func (w Drawing) Above(arc int) bool { return w.To[arc].Side != SideA }
+func (w Drawing) Above(arc int) bool { return w.To[arc].Above() }
 
 // Walks: of each part of the link that is no loop its arcs, from its lowest one on as its strand goes; in the order of these.
 func (w Drawing) Walks() [][]int {

@@ -121,3 +121,19 @@ func DrawnOnes() []api.Diagram {
 	}
 	return l
 }
+
+// FlatOnes: those of all diagrams here that lie on a sphere.
+func FlatOnes() []api.Diagram {
+	return slices.DeleteFunc(EveryOne(), func(d api.Diagram) bool { return !flat(d) })
+}
+
+// TwistedOnes: diagrams that may be, but lie on no sphere.
+func TwistedOnes() []api.Diagram {
+	return slices.DeleteFunc(EveryOne(), flat)
+}
+
+// flat: does it lie on a sphere?
+func flat(d api.Diagram) bool {
+	p, e := code.Planar(d)
+	return p && e == api.OK
+}
