@@ -64,6 +64,45 @@ func TestWalks(t *testing.T) {
 	}
 }
 
+// The other strand goes on behind a crossing where it goes out: of the one below on the side to which the one above leads, and the other way round.
+func TestAside(t *testing.T) {
+	w, _ := drawing.Of(samples.OfText("X+[2,3,1,4] X-[1,3,2,4]"))
+	for arc, want := range []int{1: 4, 2: 3, 3: 2, 4: 1} {
+		if arc > 0 && w.Aside(arc) != want {
+			t.Error("arc", arc, w.Aside(arc), "wanted:", want)
+		}
+	}
+}
+
+// Rings come from their lowest arcs on, in the order of these, whatever leads from arc to arc.
+func TestArcRings(t *testing.T) {
+	w, _ := drawing.Of(samples.Trefoil())
+	next := []int{1: 5, 2: 2, 3: 6, 4: 3, 5: 1, 6: 4}
+	got := w.ArcRings(func(arc int) int { return next[arc] })
+	if want := [][]int{{1, 5}, {2}, {3, 6, 4}}; !slices.EqualFunc(got, want, slices.Equal[[]int]) {
+		t.Error(got, "wanted:", want)
+	}
+}
+
+// Flat tells what is wrong with a diagram, and draws what lies on a sphere.
+func TestFlat(t *testing.T) {
+	for _, x := range samples.WrongOnes() {
+		if w, e := drawing.Flat(x.Diagram); e != api.ErrState || w.To != nil {
+			t.Error(x.What, w, e)
+		}
+	}
+	for _, d := range samples.TwistedOnes() {
+		if w, e := drawing.Flat(d); e != api.ErrPlane || w.To != nil {
+			t.Error(d, w, e)
+		}
+	}
+	for _, d := range samples.FlatOnes() {
+		if w, e := drawing.Flat(d); e != api.OK || !samples.Alike(w.Diagram, d) || len(w.To) != 2*len(d.Crosses)+1 {
+			t.Error(d, w, e)
+		}
+	}
+}
+
 // Turned from each of its sides on, a crossing has the same arcs around it; from A on it is what it was.
 func TestTurned(t *testing.T) {
 	c := api.Cross{A: 7, B: 5, C: 8, D: 6, Plus: true}

@@ -76,3 +76,15 @@ func (w Drawing) OnSphere() bool {
 	}
 	return true
 }
+
+// Flat: a diagram's drawing on a sphere; or what is wrong with it: it may not be, or it has none there.
+func Flat(d api.Diagram) (Drawing, api.Errno) {
+	w, ok := Of(d)
+	if !ok {
+		return Drawing{}, api.ErrState
+	}
+	if !w.OnSphere() {
+		return Drawing{}, api.ErrPlane
+	}
+	return w, api.OK
+}
