@@ -6,6 +6,7 @@ import (
 
 	"knotwork/api"
 	"knotwork/canon"
+	"knotwork/moved"
 	"knotwork/samples"
 	"knotwork/wind"
 )
@@ -57,7 +58,7 @@ func undone(d api.Diagram) map[int]int {
 // P6.2: each arc stands once, behind the one that leads to it; each ring begins with its lowest arc, and they are in the order of these.
 func TestCircles(t *testing.T) {
 	count := map[int]int{}
-	for _, d := range drawnOnes(t) {
+	for _, d := range moved.Ones() {
 		next, got, seen := undone(d), circles(t, d), map[int]bool{}
 		for i, ring := range got {
 			for j, arc := range ring {
@@ -85,7 +86,7 @@ func TestCircles(t *testing.T) {
 // P6.3: half of 2, less the parts, less the rings, and the crossings; of one piece alone, and without loops.
 func TestGenus(t *testing.T) {
 	count, of := map[api.Errno]int{}, map[int]int{}
-	for _, d := range drawnOnes(t) {
+	for _, d := range moved.Ones() {
 		got, e := wind.Genus(d)
 		count[e]++
 		if pieces(d) != 1 || d.Loops > 0 {
@@ -138,7 +139,7 @@ func TestGenusOfBraids(t *testing.T) {
 func TestGenusOfCurls(t *testing.T) {
 	for n := 1; n <= api.MaxCross; n++ {
 		for by := range 4 {
-			d := curls(n, by)
+			d := moved.Curls(n, by)
 			if got, e := wind.Genus(d); got != 0 || e != api.OK || len(circles(t, d)) != n+1 {
 				t.Error(n, by, got, e, circles(t, d))
 			}
@@ -149,7 +150,7 @@ func TestGenusOfCurls(t *testing.T) {
 // P6.3: the genus of a sum of two that have one is theirs together; that of a mirror image is the same.
 func TestGenusOfSums(t *testing.T) {
 	var ones []api.Diagram
-	for _, d := range drawnOnes(t) {
+	for _, d := range moved.Ones() {
 		if _, e := wind.Genus(d); e == api.OK {
 			ones = append(ones, d)
 		}

@@ -7,7 +7,7 @@ import (
 	"knotwork/api"
 	"knotwork/canon"
 	"knotwork/gauss"
-	"knotwork/moves"
+	"knotwork/moved"
 	"knotwork/samples"
 )
 
@@ -37,8 +37,8 @@ func TestLinkingByHand(t *testing.T) {
 		{"linked rings and a loop", samples.OfText("O X+[4,2,1,3] X+[2,4,3,1]"), 2, [][]int{{0, 1}, {1, 0}}},
 		{"one loop", samples.With(1), 0, nil},
 		{"as many loops as may be", samples.With(api.MaxLoops), 0, nil},
-		{"a knot of as many crossings as may be", curls(api.MaxCross, 1), 16, [][]int{{16}}},
-		{"the other way round", curls(api.MaxCross, 2), -16, [][]int{{-16}}},
+		{"a knot of as many crossings as may be", moved.Curls(api.MaxCross, 1), 16, [][]int{{16}}},
+		{"the other way round", moved.Curls(api.MaxCross, 2), -16, [][]int{{-16}}},
 		{"a link of as many crossings as may be", samples.Chain(api.MaxCross, true), 16, [][]int{{0, 8}, {8, 0}}},
 		{"as many crossings and loops as may be", samples.Beside(samples.Chain(api.MaxCross, false), samples.With(api.MaxLoops)), -16, [][]int{{0, -8}, {-8, 0}}},
 	} {
@@ -54,7 +54,7 @@ func TestLinkingByHand(t *testing.T) {
 // P6.1: as the visits of gauss tell it: who meets whom at each crossing, above and below, and with which sign.
 func TestLinkingByVisits(t *testing.T) {
 	count := map[int]int{}
-	for _, d := range drawnOnes(t) {
+	for _, d := range moved.Ones() {
 		visits, plus, _ := gauss.Gauss(d)
 		total, twice := 0, make([][]int, len(visits))
 		for i := range visits {
@@ -95,14 +95,10 @@ func whoVisits(visits [][]api.Visit, v api.Visit) int {
 // P6.1: how parts are linked is the same along every move; a curl changes the writhe by 1, an uncurl too, and nothing else does.
 func TestAlongMoves(t *testing.T) {
 	count := map[int]int{}
-	for i, d := range drawnOnes(t) {
+	for i, d := range moved.Ones() {
 		linked, was := tied(linking(t, d)), writhe(t, d)
-		for _, m := range movesOf(d, i) {
-			moved, e := moves.Do(d, m)
-			if e != api.OK {
-				continue
-			}
-			change := writhe(t, moved) - was
+		for _, m := range moved.Steps(d, i) {
+			change := writhe(t, m.To) - was
 			switch {
 			case m.Kind == api.Curl && change != 2*(m.By%2)-1:
 				t.Fatal(d, m, "changes the writhe by", change)
@@ -111,8 +107,8 @@ func TestAlongMoves(t *testing.T) {
 			case m.Kind != api.Curl && m.Kind != api.Uncurl && change != 0:
 				t.Fatal(d, m, "changes the writhe by", change)
 			}
-			if now := tied(linking(t, moved)); !equal(now, linked) {
-				t.Fatal(d, m, moved, now, "wanted:", linked)
+			if now := tied(linking(t, m.To)); !equal(now, linked) {
+				t.Fatal(d, m, now, "wanted:", linked)
 			}
 			count[m.Kind]++
 		}
@@ -122,25 +118,6 @@ func TestAlongMoves(t *testing.T) {
 			t.Error("too few moves of kind", kind, count)
 		}
 	}
-}
-
-// movesOf a diagram: some that may be done to it, and all that take crossings out or slide.
-func movesOf(d api.Diagram, i int) []api.Move {
-	n := len(d.Crosses)
-	l := []api.Move{
-		{Kind: api.Curl, By: i % 4}, {Kind: api.Curl, At: 1, By: i % 4},
-		{Kind: api.Push, U: api.Dart{Arc: 1}, V: api.Dart{Arc: 2, Back: true}, Over: i%2 == 0}, {Kind: api.Push, U: api.Dart{Arc: 3}, V: api.Dart{Arc: 1}},
-	}
-	for at := range n {
-		l = append(l, api.Move{Kind: api.Uncurl, At: at})
-		for by := range n {
-			l = append(l, api.Move{Kind: api.Pull, At: at, By: by})
-		}
-	}
-	for at := range 2*n + 2 {
-		l = append(l, api.Move{Kind: api.Slide, At: at})
-	}
-	return l
 }
 
 // tied: a table of links, without what parts have with themselves, and without those that are linked to none: these may become loops, and loops may become such.
@@ -165,7 +142,7 @@ func tied(table [][]int) [][]int {
 
 // P6.1: mirrored, all signs are turned; when one part is reversed, those of its crossings with others are.
 func TestLinkingTurned(t *testing.T) {
-	for _, d := range drawnOnes(t) {
+	for _, d := range moved.Ones() {
 		table := linking(t, d)
 		image, _ := canon.Mirror(d)
 		if writhe(t, image) != -writhe(t, d) || !equal(linking(t, image), turned(table, func(i, j int) bool { return true })) {

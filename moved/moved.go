@@ -1,0 +1,103 @@
+// Package moved: diagrams that moves make, for the tests of the layers above them. The program itself does not use it.
+package moved
+
+import (
+	"knotwork/api"
+	"knotwork/canon"
+	"knotwork/code"
+	"knotwork/gauss"
+	"knotwork/moves"
+	"knotwork/samples"
+)
+
+// Ones: many diagrams on a sphere: braids' closures with parts that run against one another, what moves make of them, several pieces, loops.
+func Ones() []api.Diagram {
+	die := samples.Die(61)
+	l := samples.FlatOnes()
+	for i := range 300 {
+		d := Turned(&die, samples.Woven(&die, 9))
+		for range i % 4 {
+			d = Once(&die, d)
+		}
+		if i%5 == 0 && len(d.Crosses) <= api.MaxCross-3 {
+			d = samples.Beside(d, samples.Woven(&die, 3))
+		}
+		l = append(l, samples.Renamed(&die, d))
+	}
+	for _, d := range l {
+		if planar, e := code.Planar(d); !planar || e != api.OK {
+			panic("a diagram lies on no sphere")
+		}
+	}
+	return l
+}
+
+// Turned: the diagram, each part reversed or not.
+func Turned(die *samples.Die, d api.Diagram) api.Diagram {
+	strands, _ := gauss.Strands(d)
+	for part := range strands {
+		if die.Below(2) == 1 {
+			d, _ = canon.Reverse(d, part)
+		}
+	}
+	return d
+}
+
+// Once: a diagram after a move that gives it crossings, if there is room for them.
+func Once(die *samples.Die, d api.Diagram) api.Diagram {
+	faces, _ := code.Faces(d)
+	face := faces[die.Below(len(faces))]
+	m := api.Move{Kind: api.Push, U: face[die.Below(len(face))], V: face[die.Below(len(face))], Over: die.Below(2) == 1}
+	if m.U.Arc == m.V.Arc {
+		m = api.Move{Kind: api.Curl, At: m.U.Arc, By: die.Below(4)}
+	}
+	if more, e := moves.Do(d, m); e == api.OK {
+		return more
+	}
+	return d
+}
+
+// Step: a move, and the diagram to which it leads.
+type Step struct {
+	api.Move
+	To api.Diagram
+}
+
+// Steps from a diagram: some of those that give it crossings, the ways of which number chooses; all that take crossings out or slide.
+func Steps(d api.Diagram, number int) []Step {
+	var l []Step
+	for _, m := range some(d, number) {
+		if to, e := moves.Do(d, m); e == api.OK {
+			l = append(l, Step{m, to})
+		}
+	}
+	return l
+}
+
+// some moves, of which not all may be done.
+func some(d api.Diagram, number int) []api.Move {
+	n := len(d.Crosses)
+	l := []api.Move{
+		{Kind: api.Curl, By: number % 4}, {Kind: api.Curl, At: 1, By: number % 4},
+		{Kind: api.Push, U: api.Dart{Arc: 1}, V: api.Dart{Arc: 2, Back: true}, Over: number%2 == 0}, {Kind: api.Push, U: api.Dart{Arc: 3}, V: api.Dart{Arc: 1}},
+	}
+	for at := range n {
+		l = append(l, api.Move{Kind: api.Uncurl, At: at})
+		for by := range n {
+			l = append(l, api.Move{Kind: api.Pull, At: at, By: by})
+		}
+	}
+	for at := range 2*n + 2 {
+		l = append(l, api.Move{Kind: api.Slide, At: at})
+	}
+	return l
+}
+
+// Curls: a loop with so many curls of one way.
+func Curls(n, by int) api.Diagram {
+	d, _ := moves.Do(samples.With(1), api.Move{Kind: api.Curl, By: by})
+	for range n - 1 {
+		d, _ = moves.Do(d, api.Move{Kind: api.Curl, At: 1, By: by})
+	}
+	return d
+}
