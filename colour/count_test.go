@@ -50,7 +50,7 @@ func TestCountByHand(t *testing.T) {
 		{"a trefoil and a loop", samples.Beside(samples.Trefoil(), samples.With(1)), dihedral(3), 27},
 		{"a trefoil and as many loops as are counted", samples.Beside(samples.Trefoil(), samples.With(4)), tetrahedral(), 4096},
 		{"as many curls and loops as are counted", samples.Beside(manyCurls(10), samples.With(4)), turning(), 1 << 28},
-		{"as many rings upon one as are counted", ringsUpon(5), tetrahedral(), 4096},
+		{"as many rings upon one as are counted", moved.RingsUpon(5), tetrahedral(), 4096},
 	} {
 		if got := count(t, x.d, x.q); got != x.want {
 			t.Error(x.what, got, "wanted:", x.want)

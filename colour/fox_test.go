@@ -47,7 +47,7 @@ func TestFoxByHand(t *testing.T) {
 		{"as many loops as may be", samples.With(api.MaxLoops), 97, api.MaxLoops},
 		{"as many crossings and loops as may be", samples.Beside(samples.Chain(api.MaxCross, true), samples.With(api.MaxLoops)), 2, 18},
 		{"as many crossings in curls as may be", manyCurls(api.MaxCross), 97, api.MaxCross},
-		{"as many rings upon one as may be", ringsUpon(8), 97, 9},
+		{"as many rings upon one as may be", moved.RingsUpon(8), 97, 9},
 	} {
 		if got := fox(t, x.d, x.p); got != x.want {
 			t.Error(x.what, "modulo", x.p, got, "wanted:", x.want)

@@ -5,7 +5,6 @@ import (
 
 	"knotwork/api"
 	"knotwork/colour"
-	"knotwork/gauss"
 	"knotwork/samples"
 )
 
@@ -82,21 +81,6 @@ func turning() [][]int { return [][]int{{0, 0, 0, 1}, {1, 1, 1, 2}, {2, 2, 2, 0}
 
 // swapping: a quandle of three colours; the last one swaps both others, which change nothing.
 func swapping() [][]int { return [][]int{{0, 0, 1}, {1, 1, 0}, {2, 2, 2}} }
-
-// ringsUpon: rings that lie upon one ring, and cross it twice each.
-func ringsUpon(rings int) api.Diagram {
-	parts, plus := make([][]api.Visit, 1+rings), make([]bool, 2*rings)
-	for k := range 2 * rings {
-		parts[0] = append(parts[0], api.Visit{Cross: k})
-		parts[1+k/2] = append(parts[1+k/2], api.Visit{Cross: k, Over: true})
-		plus[k] = k%2 == 0
-	}
-	d, e := gauss.Build(parts, plus, 0)
-	if e != api.OK {
-		panic(e.Error())
-	}
-	return d
-}
 
 // manyCurls: so many rings with a curl each.
 func manyCurls(n int) api.Diagram {

@@ -87,7 +87,7 @@ func walked(d api.Diagram) map[int]int {
 // P7.1: as many overpasses as crossings, and one more for each ring that is above all around.
 func TestOversOfRingsUpon(t *testing.T) {
 	for rings := 1; 2*rings <= api.MaxCross; rings++ {
-		d := ringsUpon(rings)
+		d := moved.RingsUpon(rings)
 		if got := slices.Max(overs(t, d)) + 1; got != 3*rings {
 			t.Error(rings, "rings:", got, "overpasses; wanted:", 3*rings)
 		}

@@ -5,6 +5,7 @@ import (
 
 	"knotwork/api"
 	"knotwork/colour"
+	"knotwork/moved"
 	"knotwork/samples"
 )
 
@@ -87,7 +88,7 @@ func TestNothingChanges(t *testing.T) {
 
 // What holds everywhere: an answer is new memory, spare room too.
 func TestMemory(t *testing.T) {
-	d := ringsUpon(3)
+	d := moved.RingsUpon(3)
 	if !samples.Apart(99, func() [][]int {
 		a, _ := colour.Overs(d)
 		b, _ := colour.Overs(d)

@@ -101,3 +101,18 @@ func Curls(n, by int) api.Diagram {
 	}
 	return d
 }
+
+// RingsUpon: rings that lie upon one ring, and cross it twice each.
+func RingsUpon(rings int) api.Diagram {
+	parts, plus := make([][]api.Visit, 1+rings), make([]bool, 2*rings)
+	for k := range 2 * rings {
+		parts[0] = append(parts[0], api.Visit{Cross: k})
+		parts[1+k/2] = append(parts[1+k/2], api.Visit{Cross: k, Over: true})
+		plus[k] = k%2 == 0
+	}
+	d, e := gauss.Build(parts, plus, 0)
+	if e != api.OK {
+		panic(e.Error())
+	}
+	return d
+}

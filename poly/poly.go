@@ -1,16 +1,19 @@
 // Package poly: polynomials that may go below nought.
 package poly
 
-import "knotwork/api"
+import (
+	"knotwork/api"
+	"knotwork/terms"
+)
 
 // Add both.
 func Add(a, b []api.Term) ([]api.Term, api.Errno) {
-	return combined(a, b, work.plus)
+	return combined(a, b, terms.Work.Plus)
 }
 
 // Mul: both, multiplied.
 func Mul(a, b []api.Term) ([]api.Term, api.Errno) {
-	return combined(a, b, work.times)
+	return combined(a, b, terms.Work.Times)
 }
 
 // Unit: times a power, and perhaps -1.
@@ -70,7 +73,7 @@ func Det(m [][][]api.Term) ([]api.Term, api.Errno) {
 	if !everyPlace(m, small) {
 		return nil, api.ErrRange
 	}
-	return determinant(m).terms(), api.OK
+	return terms.Expanded(m).InForm(), api.OK
 }
 
 // Text of a polynomial.

@@ -72,7 +72,7 @@ func parsed(s string) (a []api.Term, ok bool) {
 			return nil, false
 		}
 		if below {
-			t = negated(t)
+			t.Coef = -t.Coef
 		}
 		a = append(a, t)
 	}
