@@ -103,6 +103,30 @@ func TestFlat(t *testing.T) {
 	}
 }
 
+// Single draws what is of one piece and has no loops, and tells what is wrong with others: ahead of that what Flat tells.
+func TestSingle(t *testing.T) {
+	one, loop, twisted := samples.Trefoil(), samples.With(1), samples.OfText("X-[1,2,1,2]")
+	for _, x := range []struct {
+		what string
+		d    api.Diagram
+		want api.Errno
+	}{
+		{"one piece", one, api.OK},
+		{"one piece of two parts", samples.Chain(2, true), api.OK},
+		{"two pieces", samples.Beside(one, one), api.ErrKind},
+		{"a piece and a loop", samples.Beside(one, loop), api.ErrKind},
+		{"no piece", loop, api.ErrKind},
+		{"on no sphere", twisted, api.ErrPlane},
+		{"two pieces, one of them on no sphere, and a loop", samples.Beside(samples.Beside(one, twisted), loop), api.ErrPlane},
+		{"what may not be", samples.Beside(samples.With(0, api.Cross{}), one), api.ErrState},
+	} {
+		w, e := drawing.Single(x.d)
+		if e != x.want || e == api.OK && !samples.Alike(w.Diagram, x.d) || e != api.OK && w.To != nil {
+			t.Error(x.what, w, e, "wanted:", x.want)
+		}
+	}
+}
+
 // Turned from each of its sides on, a crossing has the same arcs around it; from A on it is what it was.
 func TestTurned(t *testing.T) {
 	c := api.Cross{A: 7, B: 5, C: 8, D: 6, Plus: true}

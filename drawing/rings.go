@@ -88,3 +88,15 @@ func Flat(d api.Diagram) (Drawing, api.Errno) {
 	}
 	return w, api.OK
 }
+
+// Single: a drawing on a sphere, of one piece and without loops; or what is wrong with the diagram: as Flat tells, or it is of another kind.
+func Single(d api.Diagram) (Drawing, api.Errno) {
+	w, e := Flat(d)
+	if e != api.OK {
+		return Drawing{}, e
+	}
+	if _, pieces := w.Pieces(); pieces != 1 || w.Loops > 0 {
+		return Drawing{}, api.ErrKind
+	}
+	return w, api.OK
+}
