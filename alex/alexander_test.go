@@ -55,7 +55,7 @@ func TestKnown(t *testing.T) {
 		{"two trefoils apart", 4, []int{1, 1, 1, 3, 3, 3}, "0", 0},
 	} {
 		d := samples.Weave(x.strands, x.word)
-		for _, one := range []api.Diagram{d, mirrored(t, d)} {
+		for _, one := range []api.Diagram{d, moved.Mirrored(d)} {
 			if got := alexander(t, one); !slices.Equal(got, read(t, x.want)) {
 				t.Error(x.what, got, "wanted:", x.want)
 			}
@@ -64,15 +64,6 @@ func TestKnown(t *testing.T) {
 			}
 		}
 	}
-}
-
-func mirrored(t *testing.T, d api.Diagram) api.Diagram {
-	t.Helper()
-	m, e := canon.Mirror(d)
-	if e != api.OK {
-		t.Fatal(d, e)
-	}
-	return m
 }
 
 // P8.2, P8.3: diagrams without crossings; and what loops make of others.

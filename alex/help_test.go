@@ -7,10 +7,8 @@ import (
 	"knotwork/alex"
 	"knotwork/api"
 	"knotwork/colour"
-	"knotwork/gauss"
 	"knotwork/moved"
 	"knotwork/poly"
-	"knotwork/samples"
 )
 
 // most crossings that the chapter takes.
@@ -98,28 +96,7 @@ func overs(t *testing.T, d api.Diagram) (over []int, count int) {
 }
 
 // smallOnes: those of many diagrams that the chapter takes, some of just as many crossings as it takes, and some with two rings that lie upon all others.
-func smallOnes() []api.Diagram {
-	l := slices.DeleteFunc(moved.Ones(), func(d api.Diagram) bool { return len(d.Crosses) > most })
-	die := samples.Die(81)
-	for range 60 {
-		var word []int
-		for range most {
-			word = append(word, []int{1, -2, 1, -2, 1, -2, -1, 2}[die.Below(8)])
-		}
-		l = append(l, samples.Renamed(&die, moved.Turned(&die, samples.Weave(3, word))))
-	}
-	for range 40 {
-		upon := moved.Turned(&die, moved.RingsUpon(2))
-		l = append(l, samples.Renamed(&die, moved.Once(&die, moved.Once(&die, upon))))
-	}
-	return l
-}
-
-// knot: is it of one part?
-func knot(d api.Diagram) bool {
-	strands, _ := gauss.Strands(d)
-	return len(strands)+d.Loops == 1
-}
+func smallOnes() []api.Diagram { return moved.UpTo(most) }
 
 // pieces: into how many a diagram's crossings fall.
 func pieces(d api.Diagram) int {

@@ -63,10 +63,10 @@ func TestSymmetry(t *testing.T) {
 	for _, d := range smallOnes() {
 		a := alexander(t, d)
 		value, e := poly.At(a, 1)
-		if e != api.OK || knot(d) != (value == 1 || value == -1) || !knot(d) && value != 0 {
+		if e != api.OK || moved.Knot(d) != (value == 1 || value == -1) || !moved.Knot(d) && value != 0 {
 			t.Fatal(d, a, value, e)
 		}
-		if knot(d) && len(a) > 1 {
+		if moved.Knot(d) && len(a) > 1 {
 			knots++
 		}
 		flipped, _ := poly.Flip(a)
@@ -78,7 +78,7 @@ func TestSymmetry(t *testing.T) {
 		for part := range strands {
 			reversed, _ = canon.Reverse(reversed, part)
 		}
-		if m, r := alexander(t, mirrored(t, d)), alexander(t, reversed); !slices.Equal(m, a) || !slices.Equal(r, a) {
+		if m, r := alexander(t, moved.Mirrored(d)), alexander(t, reversed); !slices.Equal(m, a) || !slices.Equal(r, a) {
 			t.Fatal(d, a, "mirrored:", m, "reversed:", r)
 		}
 	}
@@ -92,18 +92,17 @@ func TestSums(t *testing.T) {
 	die := samples.Die(82)
 	ones, sums := smallOnes(), 0
 	for range 8000 {
-		a, b := ones[die.Below(len(ones))], ones[die.Below(len(ones))]
-		if len(a.Crosses)+len(b.Crosses) > most || len(a.Crosses) == 0 || len(b.Crosses) == 0 || a.Loops+b.Loops > 1 {
+		a, b, both, ok := moved.Summed(&die, ones, most)
+		if !ok || both.Loops > 1 {
 			continue
 		}
 		apart := samples.Beside(a, b)
 		if x, n := alexander(t, apart), determinant(t, apart); len(x) != 0 || n != 0 {
 			t.Fatal(apart, x, n)
 		}
-		both, e := canon.Sum(a, 1+die.Below(2*len(a.Crosses)), b, 1+die.Below(2*len(b.Crosses)))
-		want, f := poly.Mul(alexander(t, a), alexander(t, b))
-		if e != api.OK || f != api.OK {
-			t.Fatal(a, b, e, f)
+		want, e := poly.Mul(alexander(t, a), alexander(t, b))
+		if e != api.OK {
+			t.Fatal(a, b, e)
 		}
 		if got := alexander(t, both); !slices.Equal(got, unit(t, want)) || determinant(t, both) != determinant(t, a)*determinant(t, b) {
 			t.Fatal(a, b, got, "wanted:", want)

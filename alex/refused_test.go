@@ -24,49 +24,17 @@ func allRefuse(t *testing.T, what string, d api.Diagram, want api.Errno) {
 	}
 }
 
-// The chapter's opening: what may not be is refused, ahead of what lies on no sphere or has too many crossings.
-func TestState(t *testing.T) {
-	for _, x := range samples.WrongOnes() {
-		allRefuse(t, x.What, x.Diagram, api.ErrState)
-		if len(x.Crosses) > 0 || x.Loops != 0 {
-			allRefuse(t, x.What+", beside what lies on no sphere", samples.Beside(samples.OfText("X-[1,2,1,2]"), x.Diagram), api.ErrState)
-			allRefuse(t, x.What+", beside many crossings", samples.Beside(samples.Chain(11, true), x.Diagram), api.ErrState)
-		}
-	}
-}
-
-// The chapter's opening: what lies on no sphere is refused behind that, and ahead of what has too many crossings.
-func TestPlane(t *testing.T) {
-	great, small := 0, 0
-	for _, d := range samples.TwistedOnes() {
-		allRefuse(t, "on no sphere", d, api.ErrPlane)
-		if len(d.Crosses) > most {
-			great++
-		} else {
-			small++
-		}
-	}
-	if great < 20 || small < 20 {
-		t.Error("too few:", great, small)
+// The chapter's opening: what may not be, and behind that what lies on no sphere, is refused ahead of what has too many crossings.
+func TestStateAndPlane(t *testing.T) {
+	for _, x := range samples.RefusedOnes(most) {
+		allRefuse(t, x.What, x.Diagram, x.Want)
 	}
 }
 
 // The chapter's opening: more than 10 crossings are too many, however few parts and whatever loops there are; 10 are not.
 func TestSize(t *testing.T) {
-	for n := most + 1; n <= api.MaxCross; n++ {
-		allRefuse(t, "a chain", samples.Chain(n, n%2 == 0), api.ErrSize)
-		allRefuse(t, "curls", moved.Curls(n, n%4), api.ErrSize)
-		allRefuse(t, "a chain beside loops", samples.Beside(samples.Chain(n, true), samples.With(2)), api.ErrSize)
-	}
-	great := 0
-	for _, d := range moved.Ones() {
-		if len(d.Crosses) > most {
-			great++
-			allRefuse(t, "drawn", d, api.ErrSize)
-		}
-	}
-	if great < 20 {
-		t.Error("too few:", great)
+	for _, x := range moved.Beyond(most) {
+		allRefuse(t, x.What, x.Diagram, api.ErrSize)
 	}
 	for by := range 4 {
 		d := moved.Curls(most, by)

@@ -1,9 +1,10 @@
-// Package moved: diagrams that moves make, for the tests of the layers above them. The program itself does not use it.
+// Package moved: what moves and other changes make of diagrams, for the tests of the layers above them. The program itself does not use it.
 package moved
 
 import (
+	"slices"
+
 	"knotwork/api"
-	"knotwork/canon"
 	"knotwork/code"
 	"knotwork/gauss"
 	"knotwork/moves"
@@ -32,15 +33,22 @@ func Ones() []api.Diagram {
 	return l
 }
 
-// Turned: the diagram, each part reversed or not.
-func Turned(die *samples.Die, d api.Diagram) api.Diagram {
-	strands, _ := gauss.Strands(d)
-	for part := range strands {
-		if die.Below(2) == 1 {
-			d, _ = canon.Reverse(d, part)
+// UpTo: diagrams of at most so many crossings: those of Ones, some of just as many, and some with two rings that lie upon all others.
+func UpTo(most int) []api.Diagram {
+	l := slices.DeleteFunc(Ones(), func(d api.Diagram) bool { return len(d.Crosses) > most })
+	die := samples.Die(81)
+	for range 60 {
+		var word []int
+		for range most {
+			word = append(word, []int{1, -2, 1, -2, 1, -2, -1, 2}[die.Below(8)])
 		}
+		l = append(l, samples.Renamed(&die, Turned(&die, samples.Weave(3, word))))
 	}
-	return d
+	for range 40 {
+		upon := Turned(&die, RingsUpon(2))
+		l = append(l, samples.Renamed(&die, Once(&die, Once(&die, upon))))
+	}
+	return l
 }
 
 // Once: a diagram after a move that gives it crossings, if there is room for them.
@@ -102,6 +110,15 @@ func Curls(n, by int) api.Diagram {
 	return d
 }
 
+// CurlsApart: so many rings of one curl, far from one another.
+func CurlsApart(count, by int) api.Diagram {
+	var d api.Diagram
+	for range count {
+		d = samples.Beside(d, Curls(1, by))
+	}
+	return d
+}
+
 // RingsUpon: rings that lie upon one ring, and cross it twice each.
 func RingsUpon(rings int) api.Diagram {
 	parts, plus := make([][]api.Visit, 1+rings), make([]bool, 2*rings)
@@ -115,4 +132,31 @@ func RingsUpon(rings int) api.Diagram {
 		panic(e.Error())
 	}
 	return d
+}
+
+// Beyond: diagrams of more crossings than these, whatever else there is.
+func Beyond(most int) []samples.Named {
+	var l []samples.Named
+	add := func(what string, d api.Diagram) { l = append(l, samples.Named{What: what, Diagram: d}) }
+	for n := most + 1; n <= api.MaxCross; n++ {
+		for _, plus := range []bool{false, true} {
+			add("a chain", samples.Chain(n, plus))
+			add("a chain beside loops", samples.Beside(samples.Chain(n, plus), samples.With(api.MaxLoops)))
+		}
+		for by := range 4 {
+			add("curls", Curls(n, by))
+			add("curls apart", CurlsApart(n, by))
+		}
+	}
+	great := 0
+	for _, d := range Ones() {
+		if len(d.Crosses) > most {
+			great++
+			add("drawn", d)
+		}
+	}
+	if great < 20 {
+		panic("too few diagrams have more crossings")
+	}
+	return l
 }

@@ -132,6 +132,40 @@ func TwistedOnes() []api.Diagram {
 	return slices.DeleteFunc(EveryOne(), flat)
 }
 
+// Refused: a diagram that is refused, and by which error.
+type Refused struct {
+	Named
+	Want api.Errno
+}
+
+// RefusedOnes: what layers refuse that take diagrams on a sphere of at most so many crossings: first of all what may not be, then what lies on no sphere; both beside what is refused behind them, too.
+func RefusedOnes(most int) []Refused {
+	var l []Refused
+	add := func(what string, d api.Diagram, want api.Errno) {
+		l = append(l, Refused{Named{what, d}, want})
+	}
+	for _, x := range WrongOnes() {
+		add(x.What, x.Diagram, api.ErrState)
+		if len(x.Crosses) > 0 || x.Loops != 0 {
+			add(x.What+", behind what lies on no sphere", Beside(OfText("X-[1,2,1,2]"), x.Diagram), api.ErrState)
+			add(x.What+", behind many crossings", Beside(Chain(most+1, true), x.Diagram), api.ErrState)
+		}
+	}
+	great, small := 0, 0
+	for _, d := range TwistedOnes() {
+		add("on no sphere", d, api.ErrPlane)
+		if len(d.Crosses) > most {
+			great++
+		} else {
+			small++
+		}
+	}
+	if great < 20 || small < 20 {
+		panic("too few diagrams lie on no sphere")
+	}
+	return l
+}
+
 // flat: does it lie on a sphere?
 func flat(d api.Diagram) bool {
 	p, e := code.Planar(d)

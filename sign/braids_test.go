@@ -3,6 +3,7 @@ package sign_test
 import (
 	"testing"
 
+	"knotwork/moved"
 	"knotwork/samples"
 )
 
@@ -86,7 +87,7 @@ func TestBraids(t *testing.T) {
 		if got := signature(t, d); got != want {
 			t.Fatal(strands, word, got, "wanted:", want)
 		}
-		if !knot(d) {
+		if !moved.Knot(d) {
 			continue
 		}
 		a := 1

@@ -6,8 +6,6 @@ import (
 	"testing"
 
 	"knotwork/api"
-	"knotwork/canon"
-	"knotwork/gauss"
 	"knotwork/moved"
 	"knotwork/samples"
 	"knotwork/sign"
@@ -57,26 +55,10 @@ func arf(t *testing.T, d api.Diagram) int {
 	return n
 }
 
-// mirrored: the mirror image of a diagram.
-func mirrored(t *testing.T, d api.Diagram) api.Diagram {
-	t.Helper()
-	m, e := canon.Mirror(d)
-	if e != api.OK {
-		t.Fatal(d, e)
-	}
-	return m
-}
-
 // single: is it of one piece, without loops? (Chapter 6 takes the same ones.)
 func single(d api.Diagram) bool {
 	_, e := wind.Genus(d)
 	return e == api.OK
-}
-
-// knot: is it of one part?
-func knot(d api.Diagram) bool {
-	strands, _ := gauss.Strands(d)
-	return len(strands)+d.Loops == 1
 }
 
 // singles: many diagrams that the chapter takes: some of just as many crossings as may be, and some most of whose crossings are alike.

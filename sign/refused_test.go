@@ -60,7 +60,7 @@ func TestPlane(t *testing.T) {
 		if d.Loops > 0 {
 			loops++
 		}
-		if knot(d) {
+		if moved.Knot(d) {
 			knots++
 		}
 		if len(d.Crosses) <= api.MaxCross-3 {

@@ -54,7 +54,7 @@ func TestKnown(t *testing.T) {
 		{"Borromeo's rings", 3, []int{1, -2, 1, -2, 1, -2}, 0, none},
 	} {
 		d := samples.Weave(x.strands, x.word)
-		for times, one := range map[int]api.Diagram{1: d, -1: mirrored(t, d)} {
+		for times, one := range map[int]api.Diagram{1: d, -1: moved.Mirrored(d)} {
 			if got := signature(t, one); got != times*x.signature {
 				t.Error("Signature:", x.what, times, got, "wanted:", times*x.signature)
 			}
@@ -130,7 +130,7 @@ func TestBothShades(t *testing.T) {
 		if dets[0] == 0 {
 			zero++
 		}
-		if !knot(d) {
+		if !moved.Knot(d) {
 			continue
 		}
 		a := 1
@@ -186,7 +186,7 @@ func TestAlongMoves(t *testing.T) {
 			if got := signature(t, m.To); got != want {
 				t.Fatal(d, m, got, "wanted:", want)
 			}
-			if knot(d) && arf(t, m.To) != arf(t, d) {
+			if moved.Knot(d) && arf(t, m.To) != arf(t, d) {
 				t.Fatal(d, m, arf(t, m.To), "wanted:", arf(t, d))
 			}
 		}
@@ -202,14 +202,14 @@ func TestAlongMoves(t *testing.T) {
 func TestMirrored(t *testing.T) {
 	die := samples.Die(92)
 	for _, d := range singles() {
-		want, image, again := signature(t, d), mirrored(t, d), samples.Renamed(&die, d)
+		want, image, again := signature(t, d), moved.Mirrored(d), samples.Renamed(&die, d)
 		if got := signature(t, image); got != -want {
 			t.Fatal(image, got, "wanted:", -want)
 		}
 		if got := signature(t, again); got != want {
 			t.Fatal(again, got, "wanted:", want)
 		}
-		if knot(d) && (arf(t, image) != arf(t, d) || arf(t, again) != arf(t, d)) {
+		if moved.Knot(d) && (arf(t, image) != arf(t, d) || arf(t, again) != arf(t, d)) {
 			t.Fatal(d, arf(t, d), arf(t, image), arf(t, again))
 		}
 	}
@@ -220,18 +220,14 @@ func TestSums(t *testing.T) {
 	die := samples.Die(93)
 	ones, links, knots := singles(), 0, [2]int{}
 	for range 3000 {
-		a, b := ones[die.Below(len(ones))], ones[die.Below(len(ones))]
-		if len(a.Crosses)+len(b.Crosses) > api.MaxCross {
+		a, b, both, ok := moved.Summed(&die, ones, api.MaxCross)
+		if !ok {
 			continue
-		}
-		both, e := canon.Sum(a, 1+die.Below(2*len(a.Crosses)), b, 1+die.Below(2*len(b.Crosses)))
-		if e != api.OK {
-			t.Fatal(a, b, e)
 		}
 		if got, want := signature(t, both), signature(t, a)+signature(t, b); got != want {
 			t.Fatal(a, b, got, "wanted:", want)
 		}
-		if !knot(both) {
+		if !moved.Knot(both) {
 			links++
 			continue
 		}
@@ -246,28 +242,16 @@ func TestSums(t *testing.T) {
 	}
 }
 
-// exchanged: the diagram, at one crossing the other strand above.
-func exchanged(d api.Diagram, cross int) api.Diagram {
-	l := slices.Clone(d.Crosses)
-	c := l[cross]
-	if c.Plus {
-		l[cross] = api.Cross{A: c.D, B: c.A, C: c.B, D: c.C}
-	} else {
-		l[cross] = api.Cross{A: c.B, B: c.C, C: c.D, D: c.A, Plus: true}
-	}
-	return api.Diagram{Crosses: l, Loops: d.Loops}
-}
-
 // P9.3: where one crossing is Plus in place of not, the signature is the same or more, by 2 at most.
 func TestExchanged(t *testing.T) {
 	more := map[int]int{}
 	for _, d := range singles() {
 		for k, c := range d.Crosses {
-			less := signature(t, exchanged(d, k)) - signature(t, d)
+			less := signature(t, moved.Exchanged(d, k)) - signature(t, d)
 			if c.Plus {
 				less = -less
 			}
-			if more[less]++; less < 0 || less > 2 || less == 1 && knot(d) {
+			if more[less]++; less < 0 || less > 2 || less == 1 && moved.Knot(d) {
 				t.Fatal(d, "at crossing", k, less)
 			}
 		}
