@@ -5,9 +5,7 @@ import (
 	"testing"
 
 	"knotwork/api"
-	"knotwork/canon"
 	"knotwork/colour"
-	"knotwork/gauss"
 	"knotwork/moved"
 	"knotwork/poly"
 	"knotwork/samples"
@@ -73,12 +71,7 @@ func TestSymmetry(t *testing.T) {
 		if !slices.Equal(unit(t, flipped), a) {
 			t.Fatal(d, a, flipped)
 		}
-		reversed := d
-		strands, _ := gauss.Strands(d)
-		for part := range strands {
-			reversed, _ = canon.Reverse(reversed, part)
-		}
-		if m, r := alexander(t, moved.Mirrored(d)), alexander(t, reversed); !slices.Equal(m, a) || !slices.Equal(r, a) {
+		if m, r := alexander(t, moved.Mirrored(d)), alexander(t, moved.Backward(d)); !slices.Equal(m, a) || !slices.Equal(r, a) {
 			t.Fatal(d, a, "mirrored:", m, "reversed:", r)
 		}
 	}

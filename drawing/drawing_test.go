@@ -157,6 +157,37 @@ func TestRenumbered(t *testing.T) {
 	}
 }
 
+// Without some crossings strands go on as they are told to; the least numbers are left, and rings are loops, be they more than may be.
+func TestWithout(t *testing.T) {
+	trefoil, curls := samples.Trefoil(), samples.OfText("X-[1,2,2,1] X+[3,3,4,4]")
+	curls.Loops = api.MaxLoops
+	for _, x := range []struct {
+		what  string
+		d     api.Diagram
+		aside bool
+		gone  []int
+		want  api.Diagram
+	}{
+		{"nothing gone", trefoil, false, nil, trefoil},
+		{"across", trefoil, false, []int{0}, samples.OfText("X-[2,4,3,1] X-[3,1,4,2]")},
+		{"aside", trefoil, true, []int{0}, samples.OfText("X-[3,4,2,1] X-[1,2,4,3]")},
+		{"all but one, aside", trefoil, true, []int{2, 0}, samples.OfText("X-[1,2,2,1]")},
+		{"all, across", trefoil, false, []int{0, 1, 2}, samples.With(1)},
+		{"all, aside", trefoil, true, []int{0, 1, 2}, samples.With(2)},
+		{"many loops, across", curls, false, []int{0}, samples.With(17, api.Cross{A: 1, B: 1, C: 2, D: 2, Plus: true})},
+		{"many loops, aside", curls, true, []int{0, 1}, samples.With(20)},
+	} {
+		w, ok := drawing.Of(x.d)
+		next := w.Ahead
+		if x.aside {
+			next = w.Aside
+		}
+		if got := w.Without(next, x.gone...); !ok || !samples.Alike(got, x.want) {
+			t.Error(x.what, got, ok, "wanted:", x.want)
+		}
+	}
+}
+
 // Arcs are numbered from 1 on; loops have none.
 func TestHas(t *testing.T) {
 	trefoil, _ := drawing.Of(samples.Trefoil())

@@ -29,6 +29,15 @@ func Turned(die *samples.Die, d api.Diagram) api.Diagram {
 	return d
 }
 
+// Backward: the diagram, all parts reversed.
+func Backward(d api.Diagram) api.Diagram {
+	strands, _ := gauss.Strands(d)
+	for part := range strands {
+		d, _ = canon.Reverse(d, part)
+	}
+	return d
+}
+
 // Mirrored: the mirror image of a diagram.
 func Mirrored(d api.Diagram) api.Diagram {
 	m, e := canon.Mirror(d)

@@ -4,7 +4,6 @@ import (
 	"slices"
 
 	"knotwork/api"
-	"knotwork/drawing"
 )
 
 // takings: the moves that may take something out of a diagram of so many crossings, in the order in which they are tried.
@@ -62,48 +61,7 @@ func (b bench) joins(ring []api.Dart, k, j int) bool {
 
 // without some crossings: their strands go on across them.
 func (b bench) without(gone ...int) api.Diagram {
-	least := b.united(gone)
-	stands := make([]bool, len(least))
-	for arc, to := range b.To {
-		stands[least[arc]] = stands[least[arc]] || !slices.Contains(gone, to.Cross)
-	}
-	d, numbers, next := api.Diagram{Loops: b.Loops}, make([]int, len(least)), 1
-	for arc := 1; b.Has(arc); arc++ {
-		switch {
-		case least[arc] < arc:
-			numbers[arc] = numbers[least[arc]]
-		case stands[arc]:
-			numbers[arc] = next
-			next++
-		default: // a ring that comes to no crossing
-			d.Loops++
-		}
-	}
+	d := b.Without(b.Ahead, gone...)
 	need(d.Loops <= api.MaxLoops, api.ErrSize)
-	for k, c := range b.Crosses {
-		if !slices.Contains(gone, k) {
-			d.Crosses = append(d.Crosses, drawing.Renumbered(c, func(_, arc int) int { return numbers[arc] }))
-		}
-	}
 	return d
-}
-
-// united: by arcs, of those that are one when some crossings are gone the least.
-func (b bench) united(gone []int) []int {
-	least := make([]int, len(b.To))
-	for arc := range least {
-		least[arc] = arc
-	}
-	for arc := 1; b.Has(arc); arc++ {
-		if !slices.Contains(gone, b.To[arc].Cross) {
-			continue
-		}
-		x, y := least[arc], least[b.Ahead(arc)]
-		for i := range least {
-			if least[i] == max(x, y) {
-				least[i] = min(x, y)
-			}
-		}
-	}
-	return least
 }
