@@ -10,21 +10,12 @@ import (
 
 // Braids tell of moves without any compass: what a move does to a closure, a rule of braids does to the word.
 
-// drawnWord: letters of a braid of so many strands.
-func drawnWord(die *samples.Die, strands, letters int) []int {
-	var word []int
-	for range letters {
-		word = append(word, (1+die.Below(strands-1))*(2*die.Below(2)-1))
-	}
-	return word
-}
-
 // P5.1: a last letter that no other one stands beside is a curl of the strand to its left.
 func TestCurlOfBraids(t *testing.T) {
 	die := samples.Die(31)
 	for range 300 {
 		strands := 2 + die.Below(3)
-		word := append(drawnWord(&die, strands, die.Below(9)), strands-1) // its last arc is the right one, so the one that is closed
+		word := append(samples.DrawnWord(&die, strands, die.Below(9)), strands-1) // its last arc is the right one, so the one that is closed
 		d := samples.Weave(strands, word)
 		for _, x := range []struct{ letter, by int }{{strands, 3}, {-strands, 0}} {
 			got := do(t, d, curl(2*len(word), x.by))
@@ -40,7 +31,7 @@ func TestPushOfBraids(t *testing.T) {
 	die := samples.Die(32)
 	for range 300 {
 		strands := 2 + die.Below(3)
-		word := drawnWord(&die, strands, 1+die.Below(9))
+		word := samples.DrawnWord(&die, strands, 1+die.Below(9))
 		k := die.Below(len(word))
 		i := max(word[k], -word[k])
 		d := samples.Weave(strands, word)
@@ -66,7 +57,7 @@ func TestSlideOfBraids(t *testing.T) {
 	die := samples.Die(33)
 	for range 600 {
 		strands := 3 + die.Below(2)
-		before, behind := drawnWord(&die, strands, die.Below(5)), drawnWord(&die, strands, die.Below(5))
+		before, behind := samples.DrawnWord(&die, strands, die.Below(5)), samples.DrawnWord(&die, strands, die.Below(5))
 		i := 1 + die.Below(strands-2)
 		j := i + 1
 		if die.Below(2) == 0 {

@@ -1,4 +1,4 @@
-// Package samples: diagrams for the tests of all layers. The program itself does not use it.
+// Package samples: diagrams and words of braids for the tests of all layers. The program itself does not use it.
 package samples
 
 import (
@@ -71,11 +71,7 @@ func Weave(strands int, word []int) api.Diagram {
 // Woven: a braid's closure, of 1 to most letters.
 func Woven(die *Die, most int) api.Diagram {
 	strands := 2 + die.Below(3)
-	var word []int
-	for range 1 + die.Below(most) {
-		word = append(word, (1+die.Below(strands-1))*(2*die.Below(2)-1))
-	}
-	return Weave(strands, word)
+	return Weave(strands, DrawnWord(die, strands, 1+die.Below(most)))
 }
 
 // Knotted: any diagram of so many crossings that may be; most of them are not planar.
