@@ -40,10 +40,10 @@ func TestActByHand(t *testing.T) {
 // P13.2: as the chapter's words say it, number by number; of not too many letters.
 func TestActByWords(t *testing.T) {
 	for _, x := range rightOnes() {
-		if len(x.word) > 9 {
+		if len(x.Word) > 9 {
 			continue
 		}
-		if got, want := act(t, x.n, x.word), actByWords(x.n, x.word); !alike(got, want) {
+		if got, want := act(t, x.Strands, x.Word), actByWords(x.Strands, x.Word); !alike(got, want) {
 			t.Fatal(x, got, "wanted:", want)
 		}
 	}
@@ -52,12 +52,12 @@ func TestActByWords(t *testing.T) {
 // P13.2: of as many letters as may be: no neighbours are reciprocals, and tables put in for letters come to what the word makes of tables.
 func TestActByTables(t *testing.T) {
 	for _, x := range rightOnes() {
-		texts, want := act(t, x.n, x.word), marksOf(x.word)
-		if len(texts) != x.n {
+		texts, want := act(t, x.Strands, x.Word), marksOf(x.Word)
+		if len(texts) != x.Strands {
 			t.Fatal(x, texts)
 		}
 		for place, text := range texts {
-			if !wellFormed(x.n, text) || valueOf(text) != want[place] {
+			if !wellFormed(x.Strands, text) || valueOf(text) != want[place] {
 				t.Fatal(x, place, text)
 			}
 		}
@@ -77,7 +77,7 @@ func wellFormed(n int, text []int) bool {
 // What comes of it: each text is that of one strand, with something ahead of it and its reciprocal behind it; and all together are x1 to xn.
 func TestActOfStrands(t *testing.T) {
 	for _, x := range rightOnes() {
-		texts, where := act(t, x.n, x.word), ends(t, x.n, x.word)
+		texts, where := act(t, x.Strands, x.Word), ends(t, x.Strands, x.Word)
 		for place, text := range texts {
 			half := len(text) / 2
 			if len(text)%2 == 0 || text[half] < 1 || where[text[half]-1] != place+1 {
@@ -87,7 +87,7 @@ func TestActOfStrands(t *testing.T) {
 				t.Fatal(x, place, text)
 			}
 		}
-		if all := valueOf(slices.Concat(texts...)); all != valueOf([]int{1, 2, 3, 4, 5, 6}[:x.n]) {
+		if all := valueOf(slices.Concat(texts...)); all != valueOf([]int{1, 2, 3, 4, 5, 6}[:x.Strands]) {
 			t.Fatal(x, texts)
 		}
 	}

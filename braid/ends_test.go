@@ -39,8 +39,8 @@ func TestEndsByHand(t *testing.T) {
 // P13.1: as each strand is followed.
 func TestEndsFollowed(t *testing.T) {
 	for _, x := range rightOnes() {
-		want, _ := followed(x.n, x.word)
-		if got := ends(t, x.n, x.word); !slices.Equal(got, want) {
+		want, _ := followed(x.Strands, x.Word)
+		if got := ends(t, x.Strands, x.Word); !slices.Equal(got, want) {
 			t.Fatal(x, got, "wanted:", want)
 		}
 	}

@@ -70,7 +70,7 @@ func TestEqualOfRewritten(t *testing.T) {
 func TestEqualOfShortOnes(t *testing.T) {
 	for i, most := range []int{6, 4, 3, 2, 2} {
 		n := 2 + i
-		words := shortOnes(n, most)
+		words := samples.ShortWords(n, most)
 		found := map[bool]int{}
 		for _, u := range words {
 			texts := act(t, n, u)

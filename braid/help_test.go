@@ -55,68 +55,17 @@ func alike(a, b [][]int) bool { return slices.EqualFunc(a, b, slices.Equal[[]int
 // size of a number.
 func size(x int) int { return max(x, -x) }
 
-// given: a number of strands, and a word of theirs.
-type given struct {
-	n    int
-	word []int
-}
-
-// shortOnes: all words of so many strands, of at most so many letters.
-func shortOnes(n, most int) [][]int {
-	words := [][]int{nil}
-	for from := 0; most > 0; most-- {
-		to := len(words)
-		for _, w := range words[from:to] {
-			for x := 1; x < n; x++ {
-				words = append(words, append(w[:len(w):len(w)], x), append(w[:len(w):len(w)], -x))
-			}
-		}
-		from = to
-	}
-	return words
-}
-
-// rightOnes: words that may be handed in: all short ones, drawn ones of as many letters as may be or fewer, and edges.
-func rightOnes() []given {
-	var l []given
-	for i, most := range []int{8, 5, 4, 3, 3} {
-		for _, w := range shortOnes(2+i, most) {
-			l = append(l, given{2 + i, w})
-		}
-	}
-	die := samples.Die(131)
-	for i := range 1500 {
-		n := 2 + i%5
-		l = append(l, given{n, samples.DrawnWord(&die, n, die.Below(api.MaxWord+1))})
-		l = append(l, given{n, sameSigned(&die, n, 1-i/5%2*2)})
-	}
-	for n := 2; n <= api.MaxStrands; n++ {
-		half := samples.HalfTurn(n)
-		l = append(l, given{n, []int{}}, given{n, half}, given{n, samples.Undone(half)}, given{n, half[1:]}, given{n, half[:len(half)-1]})
-		for x := 1; x < n; x++ {
-			l = append(l, given{n, slices.Repeat([]int{x}, api.MaxWord)}, given{n, slices.Repeat([]int{-x}, api.MaxWord)})
-		}
-	}
-	return l
-}
-
-// sameSigned: a drawn word of letters above 0 alone, or below 0 alone.
-func sameSigned(die *samples.Die, n, sign int) []int {
-	w := samples.DrawnWord(die, n, die.Below(api.MaxWord+1))
-	for i, x := range w {
-		w[i] = sign * size(x)
-	}
-	return w
-}
+// rightOnes: words that may be handed in, of as many letters as may be or fewer.
+func rightOnes() []samples.Braid { return samples.Braids(api.MaxWord) }
 
 // The means of these tests: how many words there are, and of what lengths.
 func TestMeans(t *testing.T) {
-	if l := shortOnes(3, 2); len(l) != 1+4+16 || !slices.Equal(l[20], []int{-2, -2}) {
+	if l := samples.ShortWords(3, 2); len(l) != 1+4+16 || !slices.Equal(l[20], []int{-2, -2}) {
 		t.Error(l)
 	}
 	lengths := map[int]int{}
 	for _, x := range rightOnes() {
-		lengths[len(x.word)]++
+		lengths[len(x.Word)]++
 	}
 	for length := range api.MaxWord + 1 {
 		if lengths[length] < 50 {

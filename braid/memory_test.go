@@ -14,15 +14,15 @@ import (
 func TestNothingChanges(t *testing.T) {
 	all := rightOnes()
 	for _, x := range samples.RefusedWords() {
-		all = append(all, given{x.Strands, x.Word})
+		all = append(all, samples.Braid{Strands: x.Strands, Word: x.Word})
 	}
 	for _, x := range all {
-		u, v := samples.WithRoom(x.word, 77), samples.WithRoom(x.word, 78)
+		u, v := samples.WithRoom(x.Word, 77), samples.WithRoom(x.Word, 78)
 		wantU, wantV := slices.Clone(u[:cap(u)]), slices.Clone(v[:cap(v)])
-		braid.Ends(x.n, u)
-		braid.Act(x.n, u)
-		braid.Normal(x.n, u)
-		braid.Equal(x.n, u, v)
+		braid.Ends(x.Strands, u)
+		braid.Act(x.Strands, u)
+		braid.Normal(x.Strands, u)
+		braid.Equal(x.Strands, u, v)
 		if !slices.Equal(u[:cap(u)], wantU) || !slices.Equal(v[:cap(v)], wantV) {
 			t.Fatal(x, "was changed")
 		}

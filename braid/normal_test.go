@@ -53,8 +53,8 @@ func TestNormalByHand(t *testing.T) {
 // P13.3: what is told is that braid.
 func TestNormalIsThatBraid(t *testing.T) {
 	for _, x := range rightOnes() {
-		power, factors := normal(t, x.n, x.word)
-		if again := wordOfForm(x.n, power, factors); marksOf(again) != marksOf(x.word) {
+		power, factors := normal(t, x.Strands, x.Word)
+		if again := wordOfForm(x.Strands, power, factors); marksOf(again) != marksOf(x.Word) {
 			t.Fatal(x, power, factors, again)
 		}
 	}
@@ -64,17 +64,17 @@ func TestNormalIsThatBraid(t *testing.T) {
 func TestNormalIsOfThatForm(t *testing.T) {
 	neighbours := 0
 	for _, x := range rightOnes() {
-		_, factors := normal(t, x.n, x.word)
+		_, factors := normal(t, x.Strands, x.Word)
 		for k, p := range factors {
-			if !permutation(x.n, p) {
+			if !permutation(x.Strands, p) {
 				t.Fatal(x, factors)
 			}
-			if letters := len(wordOf(p)); letters == 0 || letters == x.n*(x.n-1)/2 {
+			if letters := len(wordOf(p)); letters == 0 || letters == x.Strands*(x.Strands-1)/2 {
 				t.Fatal(x, factors)
 			}
 			if k > 0 {
 				neighbours++
-				if !follows(x.n, factors[k-1], p) {
+				if !follows(x.Strands, factors[k-1], p) {
 					t.Fatal(x, factors, k)
 				}
 			}
@@ -159,7 +159,7 @@ func TestNormalIsOne(t *testing.T) {
 	for i, most := range []int{8, 6, 4, 3, 3} {
 		n := 2 + i
 		forms, braids := map[string]marks{}, map[marks]string{}
-		for _, w := range shortOnes(n, most) {
+		for _, w := range samples.ShortWords(n, most) {
 			power, factors := normal(t, n, w)
 			form, m := fmt.Sprint(power, factors), marksOf(w)
 			if one, ok := forms[form]; ok && one != m {
