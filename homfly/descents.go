@@ -3,6 +3,7 @@ package homfly
 import (
 	"knotwork/api"
 	"knotwork/drawing"
+	"knotwork/terms"
 )
 
 // How strands go on behind a crossing, as far as it was met.
@@ -26,12 +27,12 @@ type descent struct {
 // descents of a drawing, and what all of them are worth together.
 type descents struct {
 	drawing.Drawing
-	sum work
+	sum terms.Pairs
 }
 
 // polynomialOf a drawing.
-func polynomialOf(w drawing.Drawing) work {
-	all := descents{w, work{}}
+func polynomialOf(w drawing.Drawing) terms.Pairs {
+	all := descents{w, terms.Pairs{}}
 	all.walk(descent{arc: 1, rings: w.Loops, worth: api.Term2{Coef: 1}})
 	return all.sum
 }
@@ -45,7 +46,7 @@ func (all descents) walk(d descent) {
 		}
 		d = all.onward(d)
 	}
-	all.sum.add(rings(d.rings), d.worth)
+	all.sum.Add(rings(d.rings), d.worth)
 }
 
 // met: the walk at a crossing that it has not met before. From below it goes on across the changed one, when another walk has gone to the end from the smoothed one.

@@ -26,6 +26,28 @@ func TestSumsAndProducts(t *testing.T) {
 	}
 }
 
+// Polynomials of two variables: sums and products; terms that come to 0 are left out, and the others are told by X, then by Z.
+func TestPairs(t *testing.T) {
+	p := terms.Pairs{{X: 1, Z: -2}: 3, {X: -1, Z: 5}: 1 << 40, {X: 1, Z: -3}: 7}
+	q := terms.Pairs{{X: 0, Z: 1}: 1, {X: 2, Z: 0}: -1}
+	if got, want := p.InForm(), []api.Term2{{X: -1, Z: 5, Coef: 1 << 40}, {X: 1, Z: -3, Coef: 7}, {X: 1, Z: -2, Coef: 3}}; !slices.Equal(got, want) {
+		t.Error(got, "wanted:", want)
+	}
+	if got, want := p.Times(q).InForm(), []api.Term2{{X: -1, Z: 6, Coef: 1 << 40}, {X: 1, Z: -2, Coef: 7}, {X: 1, Z: -1, Coef: 3}, {X: 1, Z: 5, Coef: -1 << 40}, {X: 3, Z: -3, Coef: -7}, {X: 3, Z: -2, Coef: -3}}; !slices.Equal(got, want) {
+		t.Error(got, "wanted:", want)
+	}
+	if len(p) != 3 || len(q) != 2 || p[terms.Pair{X: 1, Z: -2}] != 3 {
+		t.Error(p, q, "were changed")
+	}
+	p.Add(q, api.Term2{X: 1, Z: -3, Coef: -3})
+	if got, want := p.InForm(), []api.Term2{{X: -1, Z: 5, Coef: 1 << 40}, {X: 1, Z: -3, Coef: 7}, {X: 3, Z: -3, Coef: 3}}; !slices.Equal(got, want) {
+		t.Error(got, "wanted:", want)
+	}
+	if got := terms.Pairs(nil).Times(p).InForm(); len(got) != 0 {
+		t.Error(got)
+	}
+}
+
 // Determinants of more rows than chapter 1 takes: a turn of all places, and a product of two triangles.
 func TestExpanded(t *testing.T) {
 	for side := range 13 {
